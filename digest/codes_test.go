@@ -9,6 +9,7 @@ import (
 
 	"storehouse/api"
 	"storehouse/digest"
+	"storehouse/samples"
 )
 
 // reader is Unhex or Unbase64.
@@ -28,18 +29,6 @@ func wrong(t *testing.T, read reader, s string, place int) {
 	if got, e, at := read(s); got != "" || e != api.ErrHex || at != place {
 		t.Errorf("%q is read as %q, %d at %d, not refused at %d", s, got, e, at, place)
 	}
-}
-
-// everyText calls do for each text of these bytes that is no longer than most.
-func everyText(bytes string, most int, do func(string)) {
-	var grow func(string)
-	grow = func(s string) {
-		do(s)
-		for i := 0; i < len(bytes) && len(s) < most; i++ {
-			grow(s + bytes[i:i+1])
-		}
-	}
-	grow("")
 }
 
 // P1.2: two sixteenths a byte, the higher half first, small.
@@ -85,18 +74,18 @@ func TestUnhexWrong(t *testing.T) {
 
 // P1.2: every short text of some bytes.
 func TestUnhexEvery(t *testing.T) {
-	everyText("09afAFg", 5, func(s string) {
+	for s := range samples.Every("09afAFg", 5) {
 		place := strings.IndexFunc(s, func(c rune) bool { return !strings.ContainsRune("0123456789abcdef", c) })
 		if place < 0 && len(s)%2 != 0 {
 			place = len(s)
 		}
 		if place >= 0 {
 			wrong(t, digest.Unhex, s, place)
-			return
+			continue
 		}
 		text, _ := hex.DecodeString(s)
 		right(t, digest.Unhex, s, string(text))
-	})
+	}
 }
 
 // P1.3: RFC 4648, section 10, and each of the 64 at each place of a four.
@@ -189,7 +178,9 @@ func asPlaceOf(t *testing.T, s string) {
 
 // P1.3: every short text of some bytes (bits that are set: of A none, of Q one that is used always, of E one that is used sometimes, of B the last), and many longer ones.
 func TestUnbase64Every(t *testing.T) {
-	everyText("AQEB=*", 6, func(s string) { asPlaceOf(t, s) })
+	for s := range samples.Every("AQEB=*", 6) {
+		asPlaceOf(t, s)
+	}
 	r := rand.New(rand.NewSource(5))
 	for range 200000 {
 		s := make([]byte, r.Intn(17))
@@ -211,14 +202,14 @@ func TestThereAndBack(t *testing.T) {
 		right(t, digest.Unhex, digest.Hex(text), text)
 		right(t, digest.Unbase64, digest.Base64(text), text)
 	}
-	everyText("09af", 6, func(s string) {
+	for s := range samples.Every("09af", 6) {
 		if text, e, _ := digest.Unhex(s); e == api.OK && digest.Hex(text) != s {
 			t.Errorf("%q is read as %q", s, text)
 		}
-	})
-	everyText("AQEBgw=", 4, func(s string) {
+	}
+	for s := range samples.Every("AQEBgw=", 4) {
 		if text, e, _ := digest.Unbase64(s); e == api.OK && digest.Base64(text) != s {
 			t.Errorf("%q is read as %q", s, text)
 		}
-	})
+	}
 }

@@ -9,6 +9,7 @@ import (
 
 	"storehouse/api"
 	"storehouse/digest"
+	"storehouse/samples"
 )
 
 // answers is what all calls of the layer answer of a text.
@@ -28,7 +29,9 @@ func answers(s string) []string {
 // P1: every call ends, and none panics, whatever bytes it gets.
 func TestAnyBytes(t *testing.T) {
 	r := rand.New(rand.NewSource(7))
-	everyText("\x00\x7f\x80\xff=A", 4, func(s string) { answers(s) })
+	for s := range samples.Every("\x00\x7f\x80\xff=A", 4) {
+		answers(s)
+	}
 	for range 2000 {
 		answers(anyText(r, r.Intn(300)))
 	}
@@ -42,7 +45,7 @@ func TestErrors(t *testing.T) {
 	if api.ErrHex != 50 {
 		t.Error("ErrHex:", int(api.ErrHex))
 	}
-	everyText("0aAQ=*", 6, func(s string) {
+	for s := range samples.Every("0aAQ=*", 6) {
 		for name, read := range map[string]reader{"Unhex": digest.Unhex, "Unbase64": digest.Unbase64} {
 			text, e, at := read(s)
 			switch {
@@ -52,7 +55,7 @@ func TestErrors(t *testing.T) {
 				t.Errorf("%s of %q: %q, %d at %d", name, s, text, e, at)
 			}
 		}
-	})
+	}
 }
 
 // lent is a text whose bytes may be changed behind it.
