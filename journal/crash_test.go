@@ -10,6 +10,7 @@ import (
 	"storehouse/api"
 	"storehouse/disk"
 	"storehouse/journal"
+	"storehouse/samples"
 )
 
 // The journal of these tests: 14 sectors, from the second one on, of 18.
@@ -162,30 +163,6 @@ func stories() []story {
 	return all
 }
 
-// losses is what may be lost of so many pending writes: each choice of them, if these are few, else the first ones of them, or all but one; each with a sector that is torn.
-func losses(pending int) [][]bool {
-	var all [][]bool
-	if pending <= 4 {
-		for mask := range 1 << pending {
-			var keep []bool
-			for i := range pending {
-				keep = append(keep, mask>>i&1 > 0)
-			}
-			all = append(all, keep)
-		}
-		return all
-	}
-	for i := range pending {
-		first, others := make([]bool, pending), slices.Repeat([]bool{true}, pending)
-		copy(first[:i], others)
-		others[i] = false
-		one := make([]bool, pending)
-		one[i] = true
-		all = append(all, first, others, one)
-	}
-	return append(all, slices.Repeat([]bool{true}, pending))
-}
-
 // P4.4: whenever the power goes in a call, and whatever is lost, Open tells the records as they were ahead of it, or as they are behind it; and the journal goes on from there.
 func TestPowerGoes(t *testing.T) {
 	for _, s := range stories() {
@@ -193,7 +170,7 @@ func TestPowerGoes(t *testing.T) {
 		for fuse := 0; !done; fuse++ {
 			var pending int
 			pending, done = s.cut(t, fuse, nil, 0)
-			for _, keep := range losses(pending) {
+			for _, keep := range samples.Losses(pending) {
 				for _, torn := range []int{0, 1, 2, 8, 20, 24, 30, 63, 64} {
 					s.cut(t, fuse, keep, torn)
 				}

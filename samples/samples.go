@@ -1,4 +1,4 @@
-// Package samples is texts to try a layer on; the tests of several layers take them from here.
+// Package samples is what to try a layer on, texts and losses; the tests of several layers take it from here.
 package samples
 
 import "iter"

@@ -35,3 +35,28 @@ func TestEvery(t *testing.T) {
 		t.Errorf("%q", some)
 	}
 }
+
+// Losses is all choices, where they are few; else some of each kind, each of as many writes.
+func TestLosses(t *testing.T) {
+	two := [][]bool{{false, false}, {true, false}, {false, true}, {true, true}}
+	if got := samples.Losses(2); !slices.EqualFunc(got, two, slices.Equal) {
+		t.Error(got)
+	}
+	for writes, many := range []int{1, 2, 4, 8, 16, 16, 19} {
+		all := samples.Losses(writes)
+		if len(all) != many {
+			t.Error(writes, len(all))
+		}
+		for _, keep := range all {
+			if len(keep) != writes {
+				t.Error(writes, keep)
+			}
+		}
+	}
+	has := func(want ...bool) bool {
+		return slices.ContainsFunc(samples.Losses(5), func(keep []bool) bool { return slices.Equal(keep, want) })
+	}
+	if !has(false, false, false, false, false) || !has(true, true, true, false, false) || !has(false, true, false, false, false) || !has(true, false, true, true, true) || !has(true, true, true, true, true) {
+		t.Error(samples.Losses(5))
+	}
+}
